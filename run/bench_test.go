@@ -53,6 +53,9 @@ func copyOf(a *arena.Arena) *arena.Arena {
 
 // everything is the words of each region of the arena; the heap's is the second one.
 func everything(a *arena.Arena) [][]uint64 {
+	if a == nil {
+		return nil
+	}
 	var whole [][]uint64
 	for _, r := range a.Regions() {
 		l, _ := a.Words(r[0])
@@ -191,15 +194,20 @@ func (x *bench) twin() *bench { return &bench{copyOf(x.a), x.p, machineOf(x.m)} 
 // run runs the machine, expects all that Run promises, whatever it is given, and goes on with the machine that is told.
 func (x *bench) run(t *testing.T, fuel int, r []api.Reply) (api.Ran, bool) {
 	t.Helper()
-	wantA := copyOf(x.a)
+	wantA, others := copyOf(x.a), everything(x.a)
 	want, wantOK := plainRun(wantA, x.p, machineOf(x.m), fuel, r)
 	g := give(x.p, x.m, r)
 	told, ok := run.Run(x.a, g.p, g.m, fuel, g.r)
 	if ok != wantOK || !sameRan(told, want) {
 		t.Errorf("Run(%v, %v, %d, %v) = %v, %t, want %v, %t", x.p, x.m, fuel, r, told, ok, want, wantOK)
 	}
-	if x.a != nil && !reflect.DeepEqual(everything(x.a), everything(wantA)) {
+	if !reflect.DeepEqual(everything(x.a), everything(wantA)) {
 		t.Errorf("behind %v the arena holds %x, want %x", told, everything(x.a), everything(wantA))
+	}
+	for i, l := range everything(x.a) {
+		if i != 1 && !slices.Equal(l, others[i]) {
+			t.Errorf("behind %v another region holds %x", told, l)
+		}
 	}
 	if !g.kept() {
 		t.Errorf("what was handed in is now %v, and was %v", g, give(x.p, x.m, r))
@@ -242,7 +250,7 @@ func (x *bench) none(t *testing.T) {
 			if y, ok := run.Run(x.a, g.p, g.m, fuel, g.r); ok || !sameRan(y, api.Ran{}) {
 				t.Errorf("Run(%v, %v, %d, %v) = %v, %t", x.p, x.m, fuel, r, y, ok)
 			}
-			if !g.kept() || x.a != nil && !reflect.DeepEqual(everything(x.a), everything(was)) {
+			if !g.kept() || !reflect.DeepEqual(everything(x.a), everything(was)) {
 				t.Errorf("asked of %v something changed", x.m)
 			}
 		}
